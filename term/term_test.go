@@ -538,28 +538,9 @@ func TestP204OtherFieldsAreZero(t *testing.T) {
 		if e != api.OK || show(got) != show(want) {
 			t.Errorf("%s: %v", name, e)
 		}
-		onlyItsFields(t, name, got)
-	}
-}
-
-func onlyItsFields(t *testing.T, name string, x api.Term) {
-	t.Helper()
-	y := api.Term{Form: x.Form, Kids: x.Kids}
-	switch x.Form {
-	case api.TVar, api.TMeta:
-		y.N = x.N
-	case api.TPi, api.TLam, api.TApp:
-		y.Hid = x.Hid
-	case api.TConst:
-		y.Name, y.Levels = x.Name, x.Levels
-	case api.TSort:
-		y.Levels = x.Levels
-	}
-	if !reflect.DeepEqual(x, y) {
-		t.Errorf("%s: %+v", name, x)
-	}
-	for _, k := range x.Kids {
-		onlyItsFields(t, name, k)
+		if !reflect.DeepEqual(got, noisy(got, api.Term{})) {
+			t.Errorf("%s: a field that a form does not have: %+v", name, got)
+		}
 	}
 }
 
