@@ -402,7 +402,7 @@ func TestP601CtorForm(t *testing.T) {
 	refused(t, "two params, of which one is no variable", d, 1, api.OK, api.ErrData, api.ErrData, api.ErrData)
 }
 
-// The params' Hids do not matter, those of TApps neither; those within a param's type are part of it.
+// The params' Hids do not matter, those of TApps neither.
 func TestP601Hids(t *testing.T) {
 	s := set()
 	ty := func(hid bool, b api.Term) api.Term {
@@ -422,8 +422,76 @@ func TestP601Hids(t *testing.T) {
 		isCtor(t, d, 0, []api.Term{in("A f", hidden(arrow(c("Nat"), end(hid))))}, []int{0}, []api.Term{c("i")})
 		agrees(t, d)
 	}
-	d := family("D", 0, 1, arrow(arrow(s, s), s), ctor("k", arrow(hidden(arrow(s, s)), c("D", variable(0)))))
-	refused(t, "a Hid within a param's type", d, 0, api.OK, api.ErrData, api.ErrData, api.ErrData)
+}
+
+// allForms answers a type that has all forms as parts.
+func allForms() api.Term {
+	s := set()
+	sum := of(api.TSigma, arrow(s, s), app(c("g"), variable(0)))
+	pair := of(api.TPair, sum, of(api.TLam, s, of(api.TFst, variable(0))), api.Term{Form: api.TMeta, N: 3})
+	return pi("x", s, app(c("f"), of(api.TLam, arrow(s, c("x")), app(variable(0), c("x"), of(api.TSnd, pair)))))
+}
+
+// spots answers t as often as it has parts, with change made at another one each time.
+func spots(t api.Term, change func(api.Term) api.Term) []api.Term {
+	var out []api.Term
+	for at := range term.Size(t) {
+		next := 0
+		out = append(out, mapped(t, func(x api.Term) api.Term {
+			next++
+			if next-1 == at {
+				return change(x)
+			}
+			return x
+		}))
+	}
+	return out
+}
+
+// withParam answers a family with three params, the middle one's type a, for its constructor b.
+func withParam(a, b api.Term) api.Decl {
+	ty := func(x, end api.Term) api.Term { return pis([]api.Term{set(), x, variable(0)}, end) }
+	k := arrow(c("D", variable(2), variable(1), variable(0), c("i")), c("D", variable(2), variable(1), variable(0), c("j")))
+	return family("D", 0, 3, ty(a, arrow(c("I"), set())), ctor("k", ty(b, k)))
+}
+
+// Hids within the params' types do not matter either, wherever they stand; what is not a Hid does.
+func TestP601HidsWithin(t *testing.T) {
+	x := allForms()
+	turned := spots(x, func(x api.Term) api.Term {
+		x.Hid = !x.Hid
+		return x
+	})
+	turned = append(turned, x, mapped(x, hidden))
+	for _, a := range turned {
+		for _, b := range turned {
+			d := withParam(a, b)
+			refused(t, "Hids alone", d, 0, api.OK, api.OK, api.OK, api.OK)
+			agrees(t, d)
+		}
+	}
+	for _, change := range changes() {
+		for i, y := range spots(x, change) {
+			if term.Check(y) != api.OK {
+				continue
+			}
+			for _, z := range []api.Term{y, mapped(y, hidden)} {
+				refused(t, i, withParam(x, z), 0, api.OK, api.ErrData, api.ErrData, api.ErrData)
+				refused(t, i, withParam(z, x), 0, api.OK, api.ErrData, api.ErrData, api.ErrData)
+			}
+		}
+	}
+}
+
+// changes answers what makes another part of a part, whatever that is.
+func changes() []func(api.Term) api.Term {
+	return []func(api.Term) api.Term{
+		func(x api.Term) api.Term { return of(api.TFst, x) },
+		func(x api.Term) api.Term { return c("other") },
+		func(x api.Term) api.Term { return variable(9) },
+		func(x api.Term) api.Term { return sort(param(0, 1)) },
+		func(x api.Term) api.Term { return arrow(x, x) },
+	}
 }
 
 func TestP601Recursive(t *testing.T) {

@@ -55,6 +55,18 @@ func someHid(r *rand.Rand, t api.Term) api.Term {
 	return t
 }
 
+// anyHid turns Hids of all parts of each of l: they are set where a form has none, too.
+func anyHid(r *rand.Rand, l []api.Term) []api.Term {
+	var out []api.Term
+	for _, t := range l {
+		out = append(out, mapped(t, func(x api.Term) api.Term {
+			x.Hid = r.Intn(2) == 0
+			return x
+		}))
+	}
+	return out
+}
+
 // maker makes families of one shape: levels, how many params and indices.
 type maker struct {
 	*rand.Rand
@@ -124,7 +136,7 @@ func (m maker) family() (api.Decl, [][]int) {
 				rec = append(rec, i)
 			}
 		}
-		ty := pis(all[:m.params], pis(args, m.instance(len(args))))
+		ty := pis(anyHid(m.Rand, all[:m.params]), pis(args, m.instance(len(args))))
 		d.Ctors = append(d.Ctors, ctor(fmt.Sprint("k", k), someHid(m.Rand, ty)))
 		recs = append(recs, rec)
 	}

@@ -79,7 +79,7 @@ func (f family) readCtor(c api.Ctor) (ctor, api.Errno) {
 	var args, result []api.Term
 	ok := false
 	domains, end := opened(c.Type)
-	if len(domains) < len(f.params) || !slices.EqualFunc(domains[:len(f.params)], f.params, term.Same) {
+	if len(domains) < len(f.params) || !slices.EqualFunc(domains[:len(f.params)], f.params, sameShown) {
 		goto none
 	}
 	args = slices.Clone(domains[len(f.params):])
@@ -134,6 +134,16 @@ func opened(t api.Term) ([]api.Term, api.Term) {
 	}
 	domains, _, end, _ := tele.Split(t, n)
 	return domains, end
+}
+
+// sameShown tells whether a and b are one, part by part, Hids aside.
+func sameShown(a, b api.Term) bool { return term.Same(shown(a), shown(b)) }
+
+// shown answers t without the Hids of all its parts: a Hid says how something is written, not what it is.
+func shown(t api.Term) api.Term {
+	t.Hid = false
+	t.Kids = each(t.Kids, shown)
+	return t
 }
 
 func parameter(i int) api.Level { return api.Level{Vars: []api.LVar{{Var: i}}} }
