@@ -46,6 +46,7 @@ type cell struct {
 	value  *value // nil: not found yet
 	peak   weight // how great the terms on the way to the value were at the most
 	normal *normalForm
+	number int // 0: nobody has asked yet
 }
 
 func newCell(c closure) *cell { return &cell{closure: c, weight: c.weigh()} }
@@ -76,10 +77,22 @@ type head struct {
 	of *cell
 }
 
+// inner answers the cell of the head's kid of that place; one that is bound is told in the scope of a new variable, within so many others.
+func (h head) inner(i, deep int) *cell {
+	if h.of != nil {
+		return h.of
+	}
+	if binders(h.code.Form, i) == 0 {
+		return h.kid(i)
+	}
+	return closure{h.env.with(variable(deep)), h.code}.kid(i)
+}
+
 // value is a weak head normal form.
 type value struct {
 	head
 	args *row
+	kids kids
 }
 
 // row is arguments, the first one first, and what they and all behind them add to a head.

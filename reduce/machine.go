@@ -13,6 +13,7 @@ type machine struct {
 	fuel     int
 	room     int // how many parts a normal form may still have
 	deep     int // how many binders were gone under
+	numbers  int // how many cells have one
 	meanings map[string]*meaning
 	families map[string]*family
 	waiting  []func(value) // each is told once
@@ -39,7 +40,7 @@ func (m *machine) valueOf(c *cell) *value {
 	for len(m.waiting) > 0 {
 		for m.move() {
 		}
-		m.tell(value{m.head, m.row})
+		m.tell(value{head: m.head, args: m.row})
 	}
 	m.limit(c.peak) // it may have been found within fewer binders
 	return c.value

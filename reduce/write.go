@@ -77,16 +77,10 @@ func (m *machine) normalHead(h head, parts int) api.Term {
 }
 
 func (m *machine) normalKid(h head, i, parts int) api.Term {
-	if h.of != nil {
-		return m.normalAt(h.of, parts)
-	}
-	if binders(h.code.Form, i) == 0 {
-		return m.normalAt(h.kid(i), parts)
-	}
-	within := closure{h.env.with(variable(m.deep)), h.code}
-	m.deep++
-	t := m.normalAt(within.kid(i), parts)
-	m.deep--
+	kid, deep := h.inner(i, m.deep), m.deep
+	m.deep += binders(h.code.Form, i)
+	t := m.normalAt(kid, parts)
+	m.deep = deep
 	return t
 }
 
