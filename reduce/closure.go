@@ -54,21 +54,25 @@ func newCell(c closure) *cell { return &cell{closure: c, weight: c.weigh()} }
 // variable answers a cell of a variable of its own, within that many binders.
 func variable(deep int) *cell {
 	p := read(api.Term{Form: api.TVar, N: -1 - deep}) // an index that no term has: it is 0 behind its own binder
-	return newCell(closure{code: p})
+	c := newCell(closure{code: p})
+	c.own = deep + 1
+	return c
 }
 
-// kid answers the cell of the code's kid of that place; a variable's is the one that it stands for.
-func (c closure) kid(i int) *cell {
-	k := c.code.kids[i]
-	if k.Form == api.TVar {
-		if found := c.find(k.N); found != nil {
+// kid answers the cell of the code's kid of that place.
+func (c closure) kid(i int) *cell { return closure{c.env, c.code.kids[i]}.cell() }
+
+// cell answers the closure's cell; a variable's is the one that it stands for.
+func (c closure) cell() *cell {
+	if c.code.Form == api.TVar {
+		if found := c.find(c.code.N); found != nil {
 			return found
 		}
 	}
-	if k.free == 0 {
-		return newCell(closure{code: k}) // lest it keep what it does not need
+	if c.code.free == 0 {
+		c.env = env{} // lest it keep what it does not need
 	}
-	return newCell(closure{c.env, k})
+	return newCell(c)
 }
 
 // head is what stands at the head of a row; of a TFst or TSnd that was looked at also what is projected.

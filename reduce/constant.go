@@ -21,13 +21,21 @@ type meaning struct {
 // meaning answers what the constant p means.
 func (m *machine) meaning(p *part) *meaning {
 	if p.means == nil {
-		key, _ := bytes.Term(p.Term)
-		if m.meanings[string(key)] == nil {
-			m.meanings[string(key)] = m.newMeaning(p.Term)
-		}
-		p.means = m.meanings[string(key)]
+		p.means = m.meaningOf(p.Term)
 	}
 	return p.means
+}
+
+// meaningOf answers what a constant means, which is found once; but one with so many levels that it has no bytes each time that it is read.
+func (m *machine) meaningOf(constant api.Term) *meaning {
+	key, e := bytes.Term(constant)
+	if e != api.OK {
+		return m.newMeaning(constant)
+	}
+	if m.meanings[string(key)] == nil {
+		m.meanings[string(key)] = m.newMeaning(constant)
+	}
+	return m.meanings[string(key)]
 }
 
 func (m *machine) newMeaning(constant api.Term) *meaning {

@@ -54,6 +54,15 @@ func (p *part) uses() []use {
 	return p.used
 }
 
+// hangs tells whether the kid of that place has the variable that p binds there.
+func (p *part) hangs(kid int) bool {
+	if binders(p.Form, kid) == 0 {
+		return false
+	}
+	all := p.kids[kid].uses()
+	return len(all) > 0 && all[0].index == 0
+}
+
 func (p *part) counted() []use {
 	if p.Form == api.TVar {
 		return []use{{index: p.N, count: 1}}

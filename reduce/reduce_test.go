@@ -236,6 +236,30 @@ func TestP701IotaStands(t *testing.T) {
 }
 
 // The steps at the head, one of each kind behind the other.
+// A constructor may stand with any levels, even with more than a term's bytes can have; it is still no other constant with as many.
+func TestP701IotaManyLevels(t *testing.T) {
+	s, many := signature(t), make([]api.Level, 5000)
+	for i := range many {
+		for j := range 64 {
+			many[i].Vars = append(many[i].Vars, api.LVar{Var: 300 + j, Add: 200})
+		}
+	}
+	x := c("f")
+	for _, name := range []string{"a", "zero", "suc", "zero"} {
+		x = app(x, natElim(c("p"), c("q"), at(name, many)))
+	}
+	n, e := reduce.Normal(s, x, much)
+	for i, stands := range []bool{true, false, true, false} {
+		arg := n
+		for range 3 - i {
+			arg = arg.Kids[0]
+		}
+		if e != api.OK || (arg.Kids[1].Form == api.TApp) != stands {
+			t.Errorf("P701: %d: %v: %v", i, e, arg.Kids[1].Form)
+		}
+	}
+}
+
 func TestP701Mixed(t *testing.T) {
 	s, n := signature(t), c("Nat")
 	comes(t, s, "zero + a", c("plus", c("zero"), c("a")), c("a"))

@@ -17,7 +17,7 @@ func (m *machine) whnf(c *cell) api.Term {
 
 // written answers a part of the closure's code as it stands, with what the variables stand for written into it: so many binders of the code are around it, and so many in all.
 func (c closure) written(p *part, own, all int) api.Term {
-	if p.Form == api.TVar && p.N >= own {
+	if p.Form == api.TVar && (p.N >= own || p.N < 0) { // below 0: one of its own, in a cell of its own
 		if found := c.find(p.N - own); found != nil {
 			return found.written(found.code, 0, all)
 		}
