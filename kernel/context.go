@@ -39,19 +39,14 @@ func (e *entry) ask() reduce.Cell {
 	return e.cell
 }
 
-// newContext answers the context of these types. They are read when somebody asks for them, for most of a great context may be asked for by nobody.
-func newContext(types []api.Term) context {
-	c := context{}
-	for _, t := range types {
-		scope := c.Scope
-		c = context{scope.With(), c.list.with(func() reduce.Cell { return scope.Cell(t) })}
-	}
-	return c
+// open answers the context of one variable more, whose type is read when somebody asks for it: most of a great context may be asked for by nobody.
+func (c context) open(ty api.Term) context {
+	return context{c.Scope.With(), c.list.with(func() reduce.Cell { return c.Cell(ty) })}
 }
 
 // bind answers the context of one variable more, of that type.
 func (c context) bind(ty reduce.Cell) context {
-	return context{c.With(), c.list.with(func() reduce.Cell { return ty })}
+	return context{c.Scope.With(), c.list.with(func() reduce.Cell { return ty })}
 }
 
 // typeOf answers the type of the variable of that place, from the outermost on.

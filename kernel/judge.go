@@ -7,7 +7,6 @@ import (
 	"telamon/level"
 	"telamon/reduce"
 	"telamon/sig"
-	"telamon/term"
 )
 
 // judge is what all parts of a term share. All of a call is asked of one machine: so one fuel counts all steps, and what was found once is not looked for again.
@@ -27,23 +26,9 @@ type subject struct {
 	term reduce.Cell
 }
 
-// opened answers t to be judged, if term.Check takes it and the types ctx, and these are not too many.
-func opened(s *sig.Sig, levels int, ctx []api.Term, t api.Term, fuel int) (subject, error) {
-	if e := term.Check(t); e != api.OK {
-		return subject{}, refused(e)
-	}
-	for _, ty := range ctx {
-		if e := term.Check(ty); e != api.OK {
-			return subject{}, refused(e)
-		}
-	}
-	if len(ctx) > maxContext {
-		return subject{}, refused(api.ErrLong)
-	}
+func newJudge(s *sig.Sig, levels, fuel int) *judge {
 	m := reduce.NewMachine(s, fuel)
-	j := &judge{s, levels, m, conv.NewAsker(m), map[string]reduce.Cell{}, rules()}
-	c := newContext(ctx)
-	return subject{j, c, c.Cell(t)}, nil
+	return &judge{s, levels, m, conv.NewAsker(m), map[string]reduce.Cell{}, rules()}
 }
 
 // kid answers the kid of that place; one that is bound must be asked for by body.

@@ -33,6 +33,9 @@ func (s Scope) Cell(t api.Term) Cell { return Cell{closure{s.env, read(t)}.cell(
 // NewMachine answers a Machine that has that fuel.
 func NewMachine(s *sig.Sig, fuel int) Machine { return Machine{newMachine(s, fuel)} }
 
+// Left answers the fuel that is left.
+func (m Machine) Left() int { return m.fuel }
+
 // Limit gives up, if c, within so many new variables, is more than term.Check takes.
 func (m Machine) Limit(c Cell, deep int) {
 	m.deep = deep

@@ -153,10 +153,13 @@ func meanings(l []api.Decl) map[string]meaning {
 	return out
 }
 
-// refused fails, if Put of d into s does not tell that error, or changes what s holds.
+// refused fails, if Put of d into s does not tell that error, or changes what s holds; if Would tells otherwise.
 func refused(t *testing.T, what any, s *sig.Sig, d api.Decl, want api.Errno) {
 	t.Helper()
 	before := s.List()
+	if e := s.Would(d); e != want && s != nil {
+		t.Errorf("%v: Would: %v, not %v", what, e, want)
+	}
 	if e := s.Put(d); e != want {
 		t.Errorf("%v: %v, not %v", what, e, want)
 	}
@@ -627,6 +630,9 @@ func TestP501AtRandom(t *testing.T) {
 			} else {
 				l = more
 			}
+			if e := s.Would(d); e != want {
+				t.Fatalf("%+v behind %+v: Would: %v, not %v", d, l, e, want)
+			}
 			if e := s.Put(d); e != want {
 				t.Fatalf("%+v behind %+v: %v, not %v", d, l, e, want)
 			}
@@ -658,6 +664,9 @@ func TestNotMadeByNew(t *testing.T) {
 	refused(t, "a nil one", none, nat(), api.ErrArg)
 	refused(t, "a nil one", none, axiom(""), api.ErrForm)
 	refused(t, "a nil one", none, family("D", "D"), api.ErrTwice)
+	if e := none.Would(nat()); e != api.OK {
+		t.Errorf("a nil one is read as an empty one: %v", e)
+	}
 	o := none.Copy()
 	if e := o.Put(nat()); e != api.OK {
 		t.Errorf("a nil one's copy: %v", e)
