@@ -38,7 +38,8 @@ func taken(levels map[string]int, name string, level int) (end func()) {
 	outer, hides := levels[name]
 	levels[name] = level
 	return func() {
-		if delete(levels, name); hides {
+		delete(levels, name)
+		if hides {
 			levels[name] = outer
 		}
 	}
